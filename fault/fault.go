@@ -1,0 +1,36 @@
+// Package fault holds what can be wrong with a text, as errors that wrap one another.
+package fault
+
+import (
+	"errors"
+	"strconv"
+)
+
+// Why a text is refused: errors.Is asks for these.
+var (
+	Long   = errors.New("longer than it may be")
+	Text   = errors.New("no grammar goes on like this")
+	Name   = errors.New("a name that no rule has")
+	Barren = errors.New("a name without trees")
+	Letter = errors.New("no letter")
+)
+
+// At wraps a reason with its place in the text; errors.As asks for it.
+type At struct {
+	Place int
+	Cause error
+}
+
+func (a At) Error() string { return "at " + strconv.Itoa(a.Place) + ": " + a.Cause.Error() }
+
+func (a At) Unwrap() error { return a.Cause }
+
+// In wraps an error with the kind of the text, as one reason (Long, say) may be meant of several kinds.
+type In struct {
+	Kind  string
+	Cause error
+}
+
+func (i In) Error() string { return i.Kind + ": " + i.Cause.Error() }
+
+func (i In) Unwrap() error { return i.Cause }

@@ -1,0 +1,33 @@
+package shift
+
+import (
+	"errors"
+
+	"shift/fault"
+)
+
+// number finds the number of the reason that an error wraps.
+func number(err error) Errno {
+	switch {
+	case errors.Is(err, fault.Long):
+		return ErrLong
+	case errors.Is(err, fault.Text):
+		return ErrText
+	case errors.Is(err, fault.Name):
+		return ErrName
+	case errors.Is(err, fault.Barren):
+		return ErrBarren
+	case errors.Is(err, fault.Letter):
+		return ErrLetter
+	}
+	return OK
+}
+
+// place finds the place that an error wraps, or 0 if it has none.
+func place(err error) int {
+	var at fault.At
+	if errors.As(err, &at) {
+		return at.Place
+	}
+	return 0
+}
