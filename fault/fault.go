@@ -1,4 +1,4 @@
-// Package fault holds what can be wrong with a text, as errors that wrap one another.
+// Package fault holds what can be wrong with a text or a table, as errors that wrap one another.
 package fault
 
 import (
@@ -13,9 +13,16 @@ var (
 	Name   = errors.New("a name that no rule has")
 	Barren = errors.New("a name without trees")
 	Letter = errors.New("no letter")
+	Table  = errors.New("no state is written like this")
+	Item   = errors.New("an item or an edge that cannot be")
+	Start  = errors.New("no state to begin in")
+	Closed = errors.New("an item is missing")
+	Edge   = errors.New("an edge is missing, or one too many")
+	Reason = errors.New("an item without a reason")
+	Clash  = errors.New("two things to do")
 )
 
-// At wraps a reason with its place in the text; errors.As asks for it.
+// At wraps a reason with its place, a byte of the text or a state of a table; errors.As asks for it.
 type At struct {
 	Place int
 	Cause error

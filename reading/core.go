@@ -1,4 +1,4 @@
-// Package reading takes texts apart: grammars and words.
+// Package reading takes texts apart: grammars, words and tables.
 package reading
 
 import "shift/fault"

@@ -2,6 +2,7 @@ package reading
 
 import (
 	"errors"
+	"slices"
 	"strings"
 	"testing"
 
@@ -37,7 +38,8 @@ func TestCoreWithin(t *testing.T) {
 func TestCoreIsEmbedded(t *testing.T) {
 	g := grammarReader{core{text: "a"}}
 	w := wordReader{core{text: "a"}}
-	if !g.take(IsLetter) || !w.take(IsLetter) || !g.ended() || !w.ended() {
+	b := tableReader{core{text: "a"}}
+	if !g.take(IsLetter) || !w.take(IsLetter) || !b.take(IsLetter) || !g.ended() || !w.ended() || !b.ended() {
 		t.Error("the readers do not read by their core")
 	}
 }
@@ -114,6 +116,104 @@ func TestReadWord(t *testing.T) {
 		checkFault(t, c.text, "word", err, c.reason, c.place, c.placed)
 		if word != "" {
 			t.Errorf("%q: a word beside an error", c.text)
+		}
+	}
+}
+
+func TestMarks(t *testing.T) {
+	end, a, z := MarkOf(End), MarkOf('a'), MarkOf('z')
+	if end == 0 || end >= a || a >= MarkOf('b') || MarkOf('y') >= z {
+		t.Error("a mark that is above another has no higher bit")
+	}
+	for _, b := range []byte{'A', 'Z', '0', '*', '#', '%', '`', '{', 0, 255} {
+		if MarkOf(b) != 0 {
+			t.Errorf("%q is no mark", b)
+		}
+	}
+	set := end | z
+	if !set.Holds(end) || !set.Holds(set) || !set.Holds(0) || set.Holds(end|a) || !set.Meets(end|a) || set.Meets(a) || set.Meets(0) {
+		t.Error("a set does not know its marks")
+	}
+}
+
+func TestRisingMarks(t *testing.T) {
+	for _, c := range []struct {
+		text string
+		set  Marks
+		ok   bool
+	}{
+		{"$", 1, true}, {"a", 2, true}, {"$ab", 7, true}, {"$abcdefghijklmnopqrstuvwxyz", 1<<27 - 1, true},
+		{"", 0, false}, {"$$", 0, false}, {"a$", 0, false}, {"ba", 0, false}, {"abb", 0, false}, {"acb", 0, false},
+	} {
+		if set, ok := risingMarks(c.text); set != c.set || ok != c.ok {
+			t.Errorf("risingMarks(%q) = %d %v, want %d %v", c.text, set, ok, c.set, c.ok)
+		}
+	}
+}
+
+func TestReadTable(t *testing.T) {
+	table, err := ReadTable("*0$,00$b>S001z998;97abz>")
+	if err != nil {
+		t.Fatal(err)
+	}
+	want := []State{
+		{[]Item{{Star, 0, MarkOf('$')}, {0, 0, MarkOf('$') | MarkOf('b')}}, []Edge{{'S', 1}, {'z', 998}}},
+		{[]Item{{9, 7, MarkOf('a') | MarkOf('b') | MarkOf('z')}}, nil},
+	}
+	if len(table.States) != len(want) {
+		t.Fatalf("states: %v", table.States)
+	}
+	for number, state := range table.States {
+		if !slices.Equal(state.Items, want[number].Items) || !slices.Equal(state.Edges, want[number].Edges) {
+			t.Errorf("state %d: %v, want %v", number, state, want[number])
+		}
+	}
+}
+
+func TestStateFinds(t *testing.T) {
+	s := State{[]Item{{Star, 0, 1}, {0, 1, 2}, {1, 0, 4}}, []Edge{{'S', 1}, {'a', 2}}}
+	for _, item := range s.Items {
+		if found, ok := s.Item(item.Rule, item.Place); !ok || found != item {
+			t.Errorf("%v: found %v %v", item, found, ok)
+		}
+	}
+	for _, edge := range s.Edges {
+		if found, ok := s.Edge(edge.Sign); !ok || found != edge {
+			t.Errorf("%v: found %v %v", edge, found, ok)
+		}
+	}
+	if _, ok := s.Item(0, 0); ok {
+		t.Error("found an item that is not there")
+	}
+	if _, ok := s.Edge('b'); ok {
+		t.Error("found an edge that is not there")
+	}
+}
+
+func TestReadTableRefuses(t *testing.T) {
+	good := strings.Repeat("*0$>;", MaxStates-1) + "*0$>"
+	if table, err := ReadTable(good); err != nil || len(table.States) != MaxStates {
+		t.Errorf("%d states are too many: %v", MaxStates, err)
+	}
+	for _, c := range []struct {
+		text   string
+		reason error
+		place  int
+		placed bool
+	}{
+		{strings.Repeat("x", MaxTable+1), fault.Long, 0, false},
+		{strings.Repeat("x", MaxTable), fault.Table, 0, true},
+		{"", fault.Table, 0, true},
+		{"*0$", fault.Table, 0, true},
+		{"*0$>;", fault.Table, 1, true},
+		{"*0$>;*0$>;00$,00$>;x", fault.Table, 2, true},
+		{good + ";*0$>", fault.Table, MaxStates, true},
+		{good + "x", fault.Table, MaxStates - 1, true},
+	} {
+		table, err := ReadTable(c.text)
+		checkFault(t, c.text, "table", err, c.reason, c.place, c.placed)
+		if table != nil {
+			t.Errorf("%q: a table beside an error", c.text)
 		}
 	}
 }

@@ -19,6 +19,20 @@ func number(err error) Errno {
 		return ErrBarren
 	case errors.Is(err, fault.Letter):
 		return ErrLetter
+	case errors.Is(err, fault.Table):
+		return ErrTable
+	case errors.Is(err, fault.Item):
+		return ErrItem
+	case errors.Is(err, fault.Start):
+		return ErrStart
+	case errors.Is(err, fault.Closed):
+		return ErrClosed
+	case errors.Is(err, fault.Edge):
+		return ErrEdge
+	case errors.Is(err, fault.Reason):
+		return ErrReason
+	case errors.Is(err, fault.Clash):
+		return ErrClash
 	}
 	return OK
 }

@@ -80,20 +80,21 @@ func TestP1EveryByteAtEveryPlace(t *testing.T) {
 func TestP2AnswersDependOnArgumentsAlone(t *testing.T) {
 	type question struct{ grammar, word string }
 	type answer struct {
-		check, trees, prefix Errno
-		places               [3]int
-		count, size          int
-		text                 string
+		check, trees, prefix, valid Errno
+		places                      [4]int
+		count, size                 int
+		text                        string
 	}
 	ask := func(q question) (a answer) {
 		a.check, a.places[0] = Check(q.grammar)
 		a.count, a.text, a.trees, a.places[1] = Trees(q.grammar, q.word)
 		a.size, a.prefix, a.places[2] = Prefix(q.grammar, q.word)
+		a.valid, a.places[3] = Valid(q.grammar, q.word)
 		return a
 	}
 	var questions []question
 	for _, g := range []string{"S=aSb;S=", "E=EpT;E=T;T=TmF;T=F;F=oEc;F=a", "S=SS;S=a", "S=ABC;A=;B=;C=c", "S=A", "S=S", "S"} {
-		for _, w := range []string{"", "aabb", "apama", "a", "aaa", "c", "1", strings.Repeat("a", 25)} {
+		for _, w := range []string{"", "aabb", "apama", "a", "aaa", "c", "1", strings.Repeat("a", 25), nestSmall, nestTable, oneTable} {
 			questions = append(questions, question{g, w})
 		}
 	}

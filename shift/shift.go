@@ -3,6 +3,7 @@ package shift
 
 import (
 	"shift/chart"
+	"shift/checker"
 	"shift/reading"
 )
 
@@ -53,7 +54,10 @@ func Prefix(grammar string, word string) (int, Errno, int) {
 }
 
 // Valid tells whether one may read by a table (P6).
-func Valid(grammar string, table string) (Errno, int) { return 0, 0 }
+func Valid(grammar string, table string) (Errno, int) {
+	err := trust(grammar, table)
+	return number(err), place(err)
+}
 
 // Build makes a table (P7).
 func Build(grammar string) (string, Errno, int) { return "", 0, 0 }
@@ -72,4 +76,17 @@ func read(grammar string, word string) (*chart.Chart, error) {
 		return nil, err
 	}
 	return chart.New(g, w), nil
+}
+
+// trust tells why one may not read by a table: what is wrong with the grammar comes first.
+func trust(grammar string, table string) error {
+	g, err := reading.ReadGrammar(grammar)
+	if err != nil {
+		return err
+	}
+	t, err := reading.ReadTable(table)
+	if err != nil {
+		return err
+	}
+	return checker.Check(g, t)
 }
