@@ -209,6 +209,7 @@ func wordsUpTo(size int) []string {
 }
 
 func TestP3ByDefinition(t *testing.T) {
+	t.Parallel()
 	texts := []string{""}
 	for from := 0; len(texts[from]) < 6; from++ {
 		for _, sign := range []string{"S", "T", "a", "=", ";", "."} {
@@ -243,6 +244,7 @@ func TestP3ByDefinition(t *testing.T) {
 }
 
 func TestP4ByDefinition(t *testing.T) {
+	t.Parallel()
 	words := wordsUpTo(4)
 	seen := [3]int{}
 	for _, grammar := range someGrammars(2000, 6, "STUab") {
@@ -265,6 +267,7 @@ func TestP4ByDefinition(t *testing.T) {
 }
 
 func TestP5ByDefinition(t *testing.T) {
+	t.Parallel()
 	words := wordsUpTo(5)
 	seen := [6]int{}
 	for _, grammar := range someGrammars(2000, 6, "STUab") {
@@ -301,6 +304,7 @@ func readTree(rules []string, name byte, text string) (word, rest string) {
 }
 
 func TestP4AndP5LongWords(t *testing.T) {
+	t.Parallel()
 	source := rand.New(rand.NewSource(3))
 	ones := 0
 	for _, grammar := range someGrammars(3000, 8, "STUab") {

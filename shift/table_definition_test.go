@@ -425,6 +425,7 @@ func someTables(source *rand.Rand, grammar string, count int) []string {
 }
 
 func TestP6ByDefinition(t *testing.T) {
+	t.Parallel()
 	source := rand.New(rand.NewSource(4))
 	seen := [ErrClash + 1]int{}
 	for _, grammar := range someGrammars(1500, 5, "STUab") {
@@ -479,6 +480,7 @@ func readPlainly(g plainGrammar, states []plainState, word string) (string, bool
 }
 
 func TestP6TablesThatAreTakenReadRightly(t *testing.T) {
+	t.Parallel()
 	source := rand.New(rand.NewSource(5))
 	words := append(wordsUpTo(4), "z", "ac", "abz", "aabbaabb", "abababab", "bbbbbbbb")
 	taken := 0
