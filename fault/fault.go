@@ -20,6 +20,8 @@ var (
 	Edge   = errors.New("an edge is missing, or one too many")
 	Reason = errors.New("an item without a reason")
 	Clash  = errors.New("two things to do")
+	None   = errors.New("no table is for it")
+	Reject = errors.New("no word goes on like this")
 )
 
 // At wraps a reason with its place, a byte of the text or a state of a table; errors.As asks for it.

@@ -1,13 +1,21 @@
 package reading
 
+import (
+	"iter"
+	"math/bits"
+)
+
 // End is the mark of a word's end.
 const End = '$'
 
-// maxMarks is how many marks there are: End and the letters.
-const maxMarks = 27
+// MaxMarks is how many marks there are: End and the letters.
+const MaxMarks = 27
 
 // Marks is a set of marks, one bit for each; a mark that is above another has the higher bit.
 type Marks uint32
+
+// AllMarks is the set of all marks.
+const AllMarks Marks = 1<<MaxMarks - 1
 
 // MarkOf is the set of one mark. What is no mark (a name, say) makes the empty set.
 func MarkOf(b byte) Marks {
@@ -25,6 +33,17 @@ func (m Marks) Holds(others Marks) bool { return m&others == others }
 
 // Meets tells whether one of the others is in the set.
 func (m Marks) Meets(others Marks) bool { return m&others != 0 }
+
+// Numbers goes through the numbers of the marks, rising: that of End is 0, and the letters have those from 1 on.
+func (m Marks) Numbers() iter.Seq[int] {
+	return func(yield func(int) bool) {
+		for rest := m; rest != 0; rest &= rest - 1 {
+			if !yield(bits.TrailingZeros32(uint32(rest))) {
+				return
+			}
+		}
+	}
+}
 
 func isMark(b byte) bool { return b == End || IsLetter(b) }
 

@@ -229,3 +229,38 @@ func checkFault(t *testing.T, text, kind string, err, reason error, place int, p
 		t.Errorf("%q: %v, want place %d", text, err, place)
 	}
 }
+
+func TestTextOfATable(t *testing.T) {
+	for _, text := range []string{
+		"*0$>",
+		"*0$,00$>S001a002;*1$>;01$>",
+		"*0$abz,*9z,00$,73b,91abcdefghijklmnopqrstuvwxyz>A000Z999a010z123;88$>",
+	} {
+		table, err := ReadTable(text)
+		if err != nil {
+			t.Fatal(err)
+		}
+		if got := table.Text(); got != text {
+			t.Errorf("%q is written as %q", text, got)
+		}
+	}
+}
+
+func TestNumbersOfMarks(t *testing.T) {
+	set := MarkOf('z') | MarkOf(End) | MarkOf('b')
+	if got := slices.Collect(set.Numbers()); !slices.Equal(got, []int{0, 2, 26}) {
+		t.Errorf("numbers %v", got)
+	}
+	for number := range set.Numbers() {
+		if number != 0 {
+			t.Errorf("%d is the lowest", number)
+		}
+		break
+	}
+	if got := slices.Collect(Marks(0).Numbers()); len(got) != 0 {
+		t.Errorf("no marks have the numbers %v", got)
+	}
+	if got := slices.Collect(AllMarks.Numbers()); len(got) != MaxMarks || got[MaxMarks-1] != 26 {
+		t.Errorf("all marks have the numbers %v", got)
+	}
+}

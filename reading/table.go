@@ -143,7 +143,7 @@ wrong:
 // item reads an item.
 func (r *tableReader) item() (Item, bool) {
 	rule, place := r.run(1, isRule), r.run(1, isDigit)
-	marks, rising := risingMarks(r.run(maxMarks, isMark))
+	marks, rising := risingMarks(r.run(MaxMarks, isMark))
 	if rule == "" || place == "" || !rising {
 		return Item{}, false
 	}

@@ -33,6 +33,10 @@ func number(err error) Errno {
 		return ErrReason
 	case errors.Is(err, fault.Clash):
 		return ErrClash
+	case errors.Is(err, fault.None):
+		return ErrNone
+	case errors.Is(err, fault.Reject):
+		return ErrReject
 	}
 	return OK
 }

@@ -45,7 +45,12 @@ func TestP1NoCallPanicsAndErrorsStandAlone(t *testing.T) {
 				t.Errorf("P1: Parse(%.60q, %.60q): %q beside error %d", g, w, text, err)
 			}
 		}
-		text, err, at := Build(g)
+		text, err, at := Parse(nest, nestSmall, g)
+		checkPlace(t, "Parse", g, err, at)
+		if err != OK && text != "" {
+			t.Errorf("P1: Parse of %.60q: %q beside error %d", g, text, err)
+		}
+		text, err, at = Build(g)
 		checkPlace(t, "Build", g, err, at)
 		if err != OK && text != "" {
 			t.Errorf("P1: Build(%.60q): %q beside error %d", g, text, err)
@@ -58,7 +63,7 @@ func checkPlace(t *testing.T, call, grammar string, err Errno, at int) {
 	if err < OK || err > ErrReject {
 		t.Errorf("P1: %s(%.60q): error %d has no name", call, grammar, err)
 	}
-	if at < 0 || at != 0 && (err == OK || err == ErrLong) {
+	if at < 0 || at != 0 && (err == OK || err == ErrLong || err == ErrNone) {
 		t.Errorf("P1: %s(%.60q): place %d beside error %d", call, grammar, at, err)
 	}
 }
@@ -80,16 +85,18 @@ func TestP1EveryByteAtEveryPlace(t *testing.T) {
 func TestP2AnswersDependOnArgumentsAlone(t *testing.T) {
 	type question struct{ grammar, word string }
 	type answer struct {
-		check, trees, prefix, valid Errno
-		places                      [4]int
-		count, size                 int
-		text                        string
+		check, trees, prefix, valid, build, parse Errno
+		places                                    [6]int
+		count, size                               int
+		text, table, tree                         string
 	}
 	ask := func(q question) (a answer) {
 		a.check, a.places[0] = Check(q.grammar)
 		a.count, a.text, a.trees, a.places[1] = Trees(q.grammar, q.word)
 		a.size, a.prefix, a.places[2] = Prefix(q.grammar, q.word)
 		a.valid, a.places[3] = Valid(q.grammar, q.word)
+		a.table, a.build, a.places[4] = Build(q.grammar)
+		a.tree, a.parse, a.places[5] = Parse(q.grammar, a.table, q.word)
 		return a
 	}
 	var questions []question

@@ -2,8 +2,10 @@
 package shift
 
 import (
+	"shift/builder"
 	"shift/chart"
 	"shift/checker"
+	"shift/machine"
 	"shift/reading"
 )
 
@@ -55,15 +57,33 @@ func Prefix(grammar string, word string) (int, Errno, int) {
 
 // Valid tells whether one may read by a table (P6).
 func Valid(grammar string, table string) (Errno, int) {
-	err := trust(grammar, table)
+	_, err := trust(grammar, table)
 	return number(err), place(err)
 }
 
 // Build makes a table (P7).
-func Build(grammar string) (string, Errno, int) { return "", 0, 0 }
+func Build(grammar string) (string, Errno, int) {
+	g, err := reading.ReadGrammar(grammar)
+	if err != nil {
+		return "", number(err), place(err)
+	}
+	table, err := builder.Build(g)
+	return table, number(err), place(err)
+}
 
 // Parse reads a word by a table (P8, P9).
-func Parse(grammar string, table string, word string) (string, Errno, int) { return "", 0, 0 }
+func Parse(grammar string, table string, word string) (string, Errno, int) {
+	m, err := trust(grammar, table)
+	if err != nil {
+		return "", number(err), place(err)
+	}
+	w, err := reading.ReadWord(word)
+	if err != nil {
+		return "", number(err), place(err)
+	}
+	tree, err := m.Read(w)
+	return tree, number(err), place(err)
+}
 
 // read reads a grammar, then a word, so that what is wrong with the grammar comes first.
 func read(grammar string, word string) (*chart.Chart, error) {
@@ -78,15 +98,18 @@ func read(grammar string, word string) (*chart.Chart, error) {
 	return chart.New(g, w), nil
 }
 
-// trust tells why one may not read by a table: what is wrong with the grammar comes first.
-func trust(grammar string, table string) error {
+// trust makes a table one to read by, or tells why one may not: what is wrong with the grammar comes first.
+func trust(grammar string, table string) (*machine.Machine, error) {
 	g, err := reading.ReadGrammar(grammar)
 	if err != nil {
-		return err
+		return nil, err
 	}
 	t, err := reading.ReadTable(table)
 	if err != nil {
-		return err
+		return nil, err
 	}
-	return checker.Check(g, t)
+	if err := checker.Check(g, t); err != nil {
+		return nil, err
+	}
+	return machine.New(g, t), nil
 }

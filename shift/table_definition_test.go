@@ -41,6 +41,16 @@ func readPlainState(text string) (plainState, bool) {
 	return state, rises(heads) && rises(signs)
 }
 
+// readPlainTable reads a text that is a table.
+func readPlainTable(table string) []plainState {
+	var states []plainState
+	for _, piece := range strings.Split(table, ";") {
+		state, _ := readPlainState(piece)
+		states = append(states, state)
+	}
+	return states
+}
+
 func rises(list []string) bool {
 	for i := 1; i < len(list); i++ {
 		if list[i-1] >= list[i] {
@@ -491,11 +501,7 @@ func TestP6TablesThatAreTakenReadRightly(t *testing.T) {
 				continue
 			}
 			taken++
-			var states []plainState
-			for _, piece := range strings.Split(table, ";") {
-				state, _ := readPlainState(piece)
-				states = append(states, state)
-			}
+			states := readPlainTable(table)
 			for _, word := range words {
 				count, want, _, _ := Trees(grammar, word)
 				wantAt, _, _ := Prefix(grammar, word)
