@@ -150,6 +150,17 @@ func TestFoesFromTheBeginning(t *testing.T) {
 	}
 }
 
+// TestGrowStopsInTime: there may be far more cores than states are allowed.
+func TestGrowStopsInTime(t *testing.T) {
+	all := newItems(read(t, nest))
+	f := newFoes(all)
+	for most, want := range map[int]bool{1: false, 4: false, 5: true} {
+		if _, ok := grow(all, f, most); ok != want {
+			t.Errorf("%v within %d states, want %v", ok, most, want)
+		}
+	}
+}
+
 // TestSettled: grammars at which edges are drawn anew, and states are left behind.
 func TestSettled(t *testing.T) {
 	behind := 0

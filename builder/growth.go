@@ -17,7 +17,7 @@ type growth struct {
 	waiting []int          // the states whose edges are to be drawn, or drawn anew
 }
 
-// grow lets a table grow, or tells that there is none of at most so many states: there must be one of each core.
+// grow lets a table grow, or tells that there is none of at most so many states: there must be one of each core. It ends, as states never lose marks, and a new one has foes in all others of its core: no marking founds two.
 func grow(all items, f *foes, most int) ([]state, bool) {
 	g := &growth{items: all, foes: f, alike: map[core][]int{}}
 	g.found(all.begin())
@@ -37,7 +37,7 @@ func (g *growth) draw(number int) {
 	from := g.states[number]
 	for _, sign := range g.items.signs(from.marking) {
 		next := g.items.behind(from.marking, sign)
-		to := g.home(next, from.edges[sign])
+		to := g.home(next)
 		from.edges[sign] = to
 		if g.states[to].marking.add(next) {
 			g.wait(to)
@@ -45,11 +45,8 @@ func (g *growth) draw(number int) {
 	}
 }
 
-// home finds a state that can take a marking without foes: rather the one where the edge led so far (0 if nowhere: none leads there), and a new one only if there is no other.
-func (g *growth) home(next marking, before int) int {
-	if before != 0 && !g.foes.between(next, g.states[before].marking) {
-		return before
-	}
+// home finds a state that can take a marking without foes, and a new one only if there is none. As states never lose marks, an edge that is drawn anew leads where it did, unless there are foes by now.
+func (g *growth) home(next marking) int {
 	for _, number := range g.alike[next.core()] {
 		if !g.foes.between(next, g.states[number].marking) {
 			return number

@@ -229,7 +229,7 @@ func TestP9ByOddTables(t *testing.T) {
 	t.Parallel()
 	source := rand.New(rand.NewSource(7))
 	taken := 0
-	for _, grammar := range append(apart(), someGrammars(700, 5, "STUab")...) {
+	for _, grammar := range append(apart(), someGrammars(400, 5, "STUab")...) {
 		for _, table := range someTables(source, grammar, 15) {
 			if err, _ := Valid(grammar, table); err == OK {
 				taken++
@@ -247,7 +247,7 @@ func TestP9RulesOfTheEmptyRightSide(t *testing.T) {
 	t.Parallel()
 	source := rand.New(rand.NewSource(8))
 	read := 0
-	for _, grammar := range append(someGrammars(1500, 7, "STUVab"), "S=ABC;A=;B=;C=", "S=AAA;A=", "S=SAa;S=;A=", "S=aAS;S=;A=", "S=T;T=U;U=", "S=AaA;A=BB;B=") {
+	for _, grammar := range append(someGrammars(700, 7, "STUVab"), "S=ABC;A=;B=;C=", "S=AAA;A=", "S=SAa;S=;A=", "S=aAS;S=;A=", "S=T;T=U;U=", "S=AaA;A=BB;B=") {
 		table, err, _ := Build(grammar)
 		if err != OK || !strings.Contains(grammar+";", "=;") {
 			continue
